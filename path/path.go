@@ -23,7 +23,7 @@ func Parts(s string) ([]string, error) {
 func Check(s string) error {
 	n := 0
 	for part := range cut(s) {
-		if !isPart(part) {
+		if !IsPart(part) {
 			return api.ErrName
 		}
 		n++
@@ -33,6 +33,20 @@ func Check(s string) error {
 		return api.ErrFull
 	}
 	return nil
+}
+
+// IsPart: is it one part? A path of several is none, though it is a path.
+func IsPart(s string) bool {
+	if s == "" || len(s) > api.MaxName || s == "." || s == ".." {
+		return false
+	}
+	// By bytes, not runes: all that may stand in a part is one byte wide.
+	for i := range len(s) {
+		if !isPartByte(s[i]) {
+			return false
+		}
+	}
+	return true
 }
 
 // Clean any text.
@@ -49,7 +63,7 @@ func Clean(s string) (string, error) {
 				return "", api.ErrOut
 			}
 			kept = kept[:len(kept)-1]
-		case !isPart(part):
+		case !IsPart(part):
 			return "", api.ErrName
 		default:
 			kept = append(kept, part)
@@ -107,19 +121,6 @@ func cut(s string) iter.Seq[string] {
 			}
 		}
 	}
-}
-
-func isPart(s string) bool {
-	if s == "" || len(s) > api.MaxName || s == "." || s == ".." {
-		return false
-	}
-	// By bytes, not runes: all that may stand in a part is one byte wide.
-	for i := range len(s) {
-		if !isPartByte(s[i]) {
-			return false
-		}
-	}
-	return true
 }
 
 func isPartByte(b byte) bool {

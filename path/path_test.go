@@ -75,6 +75,29 @@ func TestCheckTellsNamesAheadOfTooMany(t *testing.T) {
 	}
 }
 
+func TestIsPart(t *testing.T) {
+	for _, s := range []string{"a", "z", "0", "9", "_", "-", "...", ".a", "a.", "a..b", longest} {
+		if !IsPart(s) {
+			t.Errorf("%q is none", s)
+		}
+	}
+	for _, s := range []string{"", ".", "..", "/", "a/", "/a", "a/b", fullest, tooMany, "A", "a b", "a\n", "a:b", "é", "\xff", tooLong} {
+		if IsPart(s) {
+			t.Errorf("%q is one", s)
+		}
+	}
+}
+
+func TestIsPartOfEachByte(t *testing.T) {
+	for b := range 256 {
+		// What is a path, and is not cut, is one part.
+		s := string([]byte{byte(b)})
+		if want := Check(s) == nil; IsPart(s) != want || IsPart("a"+s) != (Check("a"+s) == nil) {
+			t.Errorf("%q: %v, want %v", s, IsPart(s), want)
+		}
+	}
+}
+
 func TestPartsAreInOrder(t *testing.T) {
 	parts, err := Parts("c/a/b/a")
 	if err != nil || !slices.Equal(parts, []string{"c", "a", "b", "a"}) {
